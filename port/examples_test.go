@@ -2,24 +2,12 @@ package port_test
 
 import (
 	"fmt"
+	"strings"
 	"testing"
 
 	"fairlink/api"
 	"fairlink/port"
 )
-
-// ip makes an IPv4 frame of n bytes with protocol 17.
-func ip(n int) string {
-	b := make([]byte, n)
-	b[0], b[3], b[8], b[9], b[12], b[15], b[16], b[19] = 0x45, byte(n), 9, 17, 10, 1, 10, 2
-	sum := 0
-	for i := 0; i < 20; i += 2 {
-		sum += int(b[i])<<8 + int(b[i+1])
-	}
-	sum = sum%0x10000 + sum/0x10000
-	b[10], b[11] = byte(^sum>>8), byte(^sum)
-	return string(b)
-}
 
 func TestExample1(t *testing.T) {
 	p := open(t, easy())
@@ -66,6 +54,36 @@ func TestExample5(t *testing.T) {
 	if l, e := p.Advance(-1); l != nil || e != api.ErrClock {
 		t.Errorf("Advance(-1): %s, %v", full(l), e)
 	}
+}
+
+func TestExample4(t *testing.T) {
+	c := easy()
+	c.Buckets = 16
+	for _, x := range []struct {
+		protocol byte
+		from     int
+		bucket   int
+	}{{17, 775, 6}, {17, 776, 13}, {6, 775, 2}, {1, 775, 4}, {1, 776, 4}, {1, 0, 4}, {1, 65535, 4}} {
+		goesTo(t, c, string(ipv4(60, x.protocol, x.from)), x.bucket)
+	}
+	goesTo(t, c, strings.Repeat("\xff", 30), 12)
+}
+
+func TestExample11(t *testing.T) {
+	c := easy()
+	c.Buckets, c.Quantum = 2, 20
+	p := open(t, c)
+	long := in(t, c, 0, 60)
+	short := in(t, c, 1, 20)
+	arrive(t, p, long, 0, "[0S0.0/60]")
+	arrive(t, p, short, 1, "[]")
+	for id := 2; id < 8; id += 2 {
+		arrive(t, p, long, id, "[]")
+		arrive(t, p, short, id+1, "[]")
+	}
+	arrive(t, p, in(t, c, 1, 60), 8, "[]")
+	arrive(t, p, short, 9, "[]")
+	advance(t, p, 1000, "[60S1.1/20 80S3.1/20 100S5.1/20 120S2.0/60 180S7.1/20 200S8.1/60 260S4.0/60 320S9.1/20 340S6.0/60]")
 }
 
 // The example of README.md.

@@ -55,8 +55,12 @@ func full(l []api.Event) string {
 func see(p *port.Port) string {
 	now, busy := p.Now()
 	frames, memory := p.Held()
-	k, sum := p.Backlog(0)
-	return fmt.Sprint(now, busy, " held ", frames, memory, " backlog ", k, sum, " counts ", p.Counts())
+	text := fmt.Sprint(now, busy, " held ", frames, memory, " backlog")
+	for b := -1; b <= api.MaxBuckets; b++ {
+		k, sum := p.Backlog(b)
+		text += fmt.Sprint(" ", k, ",", sum)
+	}
+	return text + fmt.Sprint(" counts ", p.Counts())
 }
 
 func arrive(t *testing.T, p *port.Port, frame string, id int, want string) []api.Event {

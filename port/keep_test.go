@@ -53,6 +53,17 @@ func tight() api.Config {
 	return c
 }
 
+// spread is tight with several buckets: the frames of the journey are of many flows.
+func spread() api.Config {
+	c := tight()
+	c.Buckets, c.Quantum, c.Memory = 5, 7, 400
+	return c
+}
+
+func both() []api.Config {
+	return []api.Config{tight(), spread()}
+}
+
 // wrong makes all the calls that are refused whatever has been before.
 func wrong(t *testing.T, p *port.Port) {
 	t.Helper()
@@ -70,12 +81,14 @@ func wrong(t *testing.T, p *port.Port) {
 
 // A port to which wrong calls are made all the time does what its twin does, to which none are made.
 func TestWrongCallsChangeNothing(t *testing.T) {
-	p := open(t, tight())
-	twin := open(t, tight())
-	for i := range journey {
-		wrong(t, p)
-		looks(t, p, twin, i)
-		same(t, p, twin, i)
+	for _, c := range both() {
+		p := open(t, c)
+		twin := open(t, c)
+		for i := range journey {
+			wrong(t, p)
+			looks(t, p, twin, i)
+			same(t, p, twin, i)
+		}
 	}
 }
 
@@ -86,7 +99,7 @@ func TestEveryCallEnds(t *testing.T) {
 	for _, first := range numbers {
 		for _, packets := range []int{1, 64} {
 			c := easy()
-			c.Packets = packets
+			c.Packets, c.Buckets = packets, 1+packets%17
 			p := open(t, c)
 			for i := 0; i < 3; i++ {
 				for _, s := range texts {
@@ -124,20 +137,22 @@ func TestConfigureAndResetEnd(t *testing.T) {
 
 // Ports that are used in turn answer what each would alone.
 func TestPortsKnowNothingOfEachOther(t *testing.T) {
-	var alone []string
-	p := open(t, tight())
-	for i, s := range journey {
-		answer, _ := take(p, i, s)
-		alone = append(alone, answer+see(p))
-	}
-	p = open(t, tight())
-	other := open(t, easy())
-	for i, s := range journey {
-		take(other, i+100, step{13, 0})
-		take(other, i+100, step{0, 5})
-		answer, _ := take(p, i, s)
-		if got := answer + see(p); got != alone[i] {
-			t.Errorf("P2: step %d: %s; alone: %s", i, got, alone[i])
+	for _, c := range both() {
+		var alone []string
+		p := open(t, c)
+		for i, s := range journey {
+			answer, _ := take(p, i, s)
+			alone = append(alone, answer+see(p))
+		}
+		p = open(t, c)
+		other := open(t, spread())
+		for i, s := range journey {
+			take(other, i+100, step{13, 0})
+			take(other, i+100, step{0, 5})
+			answer, _ := take(p, i, s)
+			if got := answer + see(p); got != alone[i] {
+				t.Errorf("P2: step %d: %s; alone: %s", i, got, alone[i])
+			}
 		}
 	}
 }
@@ -165,16 +180,23 @@ func spoilCounts(l []int, i int) []int {
 
 // Whatever the caller does to its lists, and to the room behind them, the port goes on as its twin, and leaves the lists alone.
 func TestListsAreTheCallers(t *testing.T) {
-	p := open(t, tight())
-	twin := open(t, tight())
-	var lists [][]api.Event
-	var sums [][]int
-	for i := range journey {
-		l := same(t, p, twin, i)
-		lists = append(lists, spoilEvents(l, i+1))
-		sums = append(sums, spoilCounts(p.Counts(), i+1))
-		looks(t, p, twin, i)
+	for _, c := range both() {
+		p := open(t, c)
+		twin := open(t, c)
+		var lists [][]api.Event
+		var sums [][]int
+		for i := range journey {
+			l := same(t, p, twin, i)
+			lists = append(lists, spoilEvents(l, i+1))
+			sums = append(sums, spoilCounts(p.Counts(), i+1))
+			looks(t, p, twin, i)
+		}
+		stillSpoilt(t, lists, sums)
 	}
+}
+
+func stillSpoilt(t *testing.T, lists [][]api.Event, sums [][]int) {
+	t.Helper()
 	for i := range lists {
 		for _, e := range lists[i] {
 			if e != spoilt(i+1) {

@@ -2,8 +2,18 @@ package port
 
 import (
 	"fairlink/api"
+	"fairlink/flow"
 	"fairlink/queue"
+	"fairlink/sip"
 )
+
+// place is the number of the bucket to which a frame belongs (P7).
+func (p *Port) place(frame string) int {
+	text := flow.Of(frame)
+	hash := sip.Hash(p.config.Key, text)
+	// The high half is below 2^32, so this is a whole number below Buckets.
+	return int((hash >> 32) * uint64(p.config.Buckets) >> 32)
+}
 
 // tooMuch tells whether more waits than the configuration lets (P7).
 func (p *Port) tooMuch() bool {
@@ -11,14 +21,29 @@ func (p *Port) tooMuch() bool {
 	return frames > p.config.Packets || memory > p.config.Memory
 }
 
+// fullest is the number of the bucket with the most bytes, of several such the least (P7).
+func (p *Port) fullest() int {
+	best := 0
+	most := 0
+	for b := range p.buckets {
+		bytes := p.buckets[b].Bytes()
+		if bytes > most {
+			best = b
+			most = bytes
+		}
+	}
+	return best
+}
+
 // shed drops frames, as long as there is too much (P7).
 func (p *Port) shed(events []api.Event) []api.Event {
 	for p.tooMuch() {
-		f, found := p.bucket.Leave()
+		b := p.fullest()
+		f, found := p.buckets[b].Leave()
 		if !found {
 			break
 		}
-		e := p.happen(api.Overload, f)
+		e := p.happen(api.Overload, b, f)
 		events = append(events, e)
 	}
 	return events
@@ -26,22 +51,33 @@ func (p *Port) shed(events []api.Event) []api.Event {
 
 // feed lets the idle link take a frame, if one waits (P8).
 func (p *Port) feed(events []api.Event) []api.Event {
-	f, found := p.bucket.Leave()
-	if !found {
-		return events
+	b, found := p.turns.Next(p.config.Quantum)
+	for found {
+		f, given := p.buckets[b].Leave()
+		if given {
+			p.turns.Pay(b, len(f.Bytes))
+			e := p.send(b, f)
+			return append(events, e)
+		}
+		p.turns.Leave()
+		b, found = p.turns.Next(p.config.Quantum)
 	}
+	return events
+}
+
+// send lays a frame on the link.
+func (p *Port) send(b int, f queue.Frame) api.Event {
 	p.busy = true
 	// This may lie beyond MaxTime, but not by so much that it goes round.
 	p.until = p.now + len(f.Bytes)*p.config.Tau
 	p.counts[bytesOut] += len(f.Bytes)
-	e := p.happen(api.Sent, f)
-	return append(events, e)
+	return p.happen(api.Sent, b, f)
 }
 
-// happen counts an event that befalls a frame now, and makes it.
-func (p *Port) happen(kind int, f queue.Frame) api.Event {
+// happen counts an event that befalls a frame of a bucket now, and makes it.
+func (p *Port) happen(kind, b int, f queue.Frame) api.Event {
 	if kind >= api.Sent && kind <= api.Flushed {
 		p.counts[kind]++
 	}
-	return api.Event{At: p.now, Kind: kind, ID: f.ID, Bucket: only, Frame: f.Bytes}
+	return api.Event{At: p.now, Kind: kind, ID: f.ID, Bucket: b, Frame: f.Bytes}
 }

@@ -8,46 +8,110 @@ import (
 	"fairlink/port"
 )
 
-// model does what P4 to P6 say of one bucket as simply as can be: time goes by one unit after the other, and all sums are made when they are asked for.
+// model does what P4 to P8 say as simply as can be: time goes by one unit after the other, and all sums are made when they are asked for.
 type model struct {
-	c      api.Config
-	now    int
-	left   int // units that the frame on the link still has
-	queue  []api.Event
-	taken  int
-	events []api.Event // all that have ever happened
+	c        api.Config
+	now      int
+	left     int // units that the frame on the link still has
+	queues   [api.MaxBuckets][]api.Event
+	deficits [api.MaxBuckets]int
+	fresh    []int
+	old      []int
+	taken    int
+	events   []api.Event // all that have ever happened
 }
 
-func (m *model) held() (int, int, int) {
+func (m *model) backlog(b int) (int, int) {
+	if b < 0 || b >= api.MaxBuckets {
+		return 0, 0
+	}
 	sum := 0
-	for _, f := range m.queue {
+	for _, f := range m.queues[b] {
 		sum += len(f.Frame)
 	}
-	return len(m.queue), sum, sum + len(m.queue)*api.Over
+	return len(m.queues[b]), sum
 }
 
-func (m *model) out(kind int) {
-	e := m.queue[0]
-	m.queue = m.queue[1:]
+func (m *model) held() (int, int) {
+	frames, memory := 0, 0
+	for b := range m.queues {
+		k, sum := m.backlog(b)
+		frames += k
+		memory += sum + k*api.Over
+	}
+	return frames, memory
+}
+
+func (m *model) fullest() int {
+	best := 0
+	for b := range m.queues {
+		_, sum := m.backlog(b)
+		if _, most := m.backlog(best); sum > most {
+			best = b
+		}
+	}
+	return best
+}
+
+func (m *model) out(kind, b int) {
+	e := m.queues[b][0]
+	m.queues[b] = m.queues[b][1:]
 	e.At, e.Kind = m.now, kind
 	m.events = append(m.events, e)
 	if kind == api.Sent {
 		m.left = len(e.Frame) * m.c.Tau
+		m.deficits[b] -= len(e.Frame)
 	}
 }
 
+func (m *model) listed(b int) bool {
+	for _, x := range append(append([]int{}, m.fresh...), m.old...) {
+		if x == b {
+			return true
+		}
+	}
+	return false
+}
+
 func (m *model) arrive(frame string) {
-	m.queue = append(m.queue, api.Event{ID: m.taken, Frame: frame})
+	b := modelBucket(m.c, frame)
+	m.queues[b] = append(m.queues[b], api.Event{ID: m.taken, Bucket: b, Frame: frame})
 	m.taken++
+	if !m.listed(b) {
+		m.fresh = append(m.fresh, b)
+		m.deficits[b] = m.c.Quantum
+	}
 	for {
-		n, _, memory := m.held()
+		n, memory := m.held()
 		if n <= m.c.Packets && memory <= m.c.Memory {
 			break
 		}
-		m.out(api.Overload)
+		m.out(api.Overload, m.fullest())
 	}
-	if m.left == 0 {
-		m.out(api.Sent)
+	m.feed()
+}
+
+// feed lets the link, if it is idle, take a frame.
+func (m *model) feed() {
+	for m.left == 0 && len(m.fresh)+len(m.old) > 0 {
+		list := &m.fresh
+		if len(m.fresh) == 0 {
+			list = &m.old
+		}
+		b := (*list)[0]
+		switch {
+		case m.deficits[b] <= 0:
+			m.deficits[b] += m.c.Quantum
+			*list = (*list)[1:]
+			m.old = append(m.old, b)
+		case len(m.queues[b]) > 0:
+			m.out(api.Sent, b)
+		case list == &m.fresh && len(m.old) > 0:
+			m.fresh = m.fresh[1:]
+			m.old = append(m.old, b)
+		default:
+			*list = (*list)[1:]
+		}
 	}
 }
 
@@ -57,14 +121,12 @@ func (m *model) advance(n int) {
 		if m.left > 0 {
 			m.left--
 		}
-		if m.left == 0 && len(m.queue) > 0 {
-			m.out(api.Sent)
-		}
+		m.feed()
 	}
 }
 
 func (m *model) see() string {
-	n, sum, memory := m.held()
+	n, memory := m.held()
 	counts := make([]int, 7)
 	counts[0] = m.taken
 	for _, e := range m.events {
@@ -73,7 +135,12 @@ func (m *model) see() string {
 			counts[6] += len(e.Frame)
 		}
 	}
-	return fmt.Sprint(m.now, m.left > 0, " held ", n, memory, " backlog ", n, sum, " counts ", counts)
+	text := fmt.Sprint(m.now, m.left > 0, " held ", n, memory, " backlog")
+	for b := -1; b <= api.MaxBuckets; b++ {
+		k, sum := m.backlog(b)
+		text += fmt.Sprint(" ", k, ",", sum)
+	}
+	return text + fmt.Sprint(" counts ", counts)
 }
 
 // dice is a row of numbers that look random and are the same in every run.
@@ -87,20 +154,95 @@ func (d *dice) roll(n int) int {
 func randomConfig(d *dice) api.Config {
 	c := easy()
 	c.Length = 20 + d.roll(181)
-	c.Packets = 1 + d.roll(12)
-	c.Memory = c.Length + api.Over + d.roll(1200)
+	c.Packets = 1 + d.roll(24)
+	c.Memory = c.Length + api.Over + d.roll(2400)
 	c.Quantum = 1 + d.roll(1000)
+	if d.roll(2) == 0 {
+		c.Quantum = 1 + d.roll(100)
+	}
 	c.Tau = 1 + d.roll(4)
 	c.ECN = d.roll(2) == 1
+	c.Buckets = 1 + d.roll(api.MaxBuckets)
+	b := randomBytes(d, api.KeyLen)
+	c.Key = string(b)
 	return c
 }
 
-func randomFrame(d *dice, length int) string {
-	b := make([]byte, 1+d.roll(length))
+func randomBytes(d *dice, n int) []byte {
+	b := make([]byte, n)
 	for i := range b {
 		b[i] = byte(d.roll(256))
 	}
+	return b
+}
+
+// randomFrame makes a frame of any kind: IPv4 or IPv6 of few flows, either with one byte or two spoilt, or what cannot be read.
+func randomFrame(d *dice, length int) string {
+	n := 1 + d.roll(length)
+	b := randomBytes(d, n)
+	switch kind := d.roll(8); {
+	case kind < 4 && n >= 20:
+		b = randomIPv4(d, b)
+	case kind < 7 && n >= 40:
+		b = randomIPv6(d, b)
+	}
+	if d.roll(8) == 0 {
+		b[d.roll(n)] ^= 1 << d.roll(8)
+	}
 	return string(b)
+}
+
+func randomIPv4(d *dice, b []byte) []byte {
+	header := 20
+	if len(b) > 24 && d.roll(3) == 0 {
+		header = 20 + d.roll(min(60, len(b))-19)/4*4
+	}
+	total := len(b)
+	if d.roll(4) == 0 {
+		total = header + d.roll(len(b)-header+2)
+	}
+	b[0], b[2], b[3] = byte(0x40+header/4), byte(total>>8), byte(total)
+	b[6], b[7] = 0, 0
+	if d.roll(6) == 0 {
+		b[6+d.roll(2)] = 1 << d.roll(8)
+	}
+	b[9] = []byte{6, 17, 1}[d.roll(3)]
+	copy(b[12:], []byte{10, 0, 0, byte(d.roll(3)), 10, 0, 0, 9})
+	if header+4 <= len(b) {
+		copy(b[header:], []byte{0, byte(d.roll(3)), 0, 80})
+	}
+	right(b, header)
+	return b
+}
+
+func randomIPv6(d *dice, b []byte) []byte {
+	payload := len(b) - 40
+	if d.roll(4) == 0 {
+		payload = d.roll(payload + 2)
+	}
+	b[0], b[4], b[5] = byte(0x60+d.roll(16)), byte(payload>>8), byte(payload)
+	for i := 8; i < 40; i++ {
+		b[i] = byte(i)
+	}
+	b[20] = byte(d.roll(3))
+	at, place := 6, 40
+	for i := d.roll(7); i > 0 && place+8 <= len(b); i-- {
+		b[at] = []byte{0, 43, 44, 60}[d.roll(4)]
+		size := 8 + 8*d.roll(2)*d.roll(3)
+		b[place+1] = byte(size/8 - 1)
+		if b[at] == 44 {
+			size = 8
+		}
+		at = place
+		place += size
+	}
+	if at < len(b) {
+		b[at] = []byte{6, 17, 58}[d.roll(3)]
+	}
+	if place+4 <= len(b) {
+		copy(b[place:], []byte{0, byte(d.roll(3)), 0, 80})
+	}
+	return b
 }
 
 func playRandom(t *testing.T, d *dice, p *port.Port, m *model) {
@@ -117,26 +259,36 @@ func playRandom(t *testing.T, d *dice, p *port.Port, m *model) {
 				t.Fatalf("P4: step %d: number %d; want %d", i, id, m.taken-1)
 			}
 		} else {
-			n := d.roll(m.c.Length * m.c.Tau * 2)
+			n := d.roll(m.c.Length * m.c.Tau * 2 / (1 + d.roll(4)))
 			m.advance(n)
 			got, e = p.Advance(n)
 		}
 		var want []api.Event
 		want = append(want, m.events[before:]...)
 		if e != api.OK || full(got) != full(want) {
-			t.Fatalf("P4, P5: %+v, step %d: %s, %v; want %s", m.c, i, show(got), e, show(want))
+			t.Fatalf("P4, P5, P7, P8: %#v, step %d: %s, %v; want %s", m.c, i, show(got), e, show(want))
 		}
 		if see(p) != m.see() {
-			t.Fatalf("P6: %+v, step %d: %s; want %s", m.c, i, see(p), m.see())
+			t.Fatalf("P6: %#v, step %d: %s; want %s", m.c, i, see(p), m.see())
 		}
 	}
 }
 
 func TestAgainstModel(t *testing.T) {
 	d := &dice{1}
-	for round := 0; round < 200; round++ {
+	for round := 0; round < 300; round++ {
 		c := randomConfig(d)
 		playRandom(t, d, open(t, c), &model{c: c})
+	}
+}
+
+// Each frame's bucket, of very many frames of all kinds.
+func TestBucketsAgainstModel(t *testing.T) {
+	d := &dice{3}
+	c := sixteen()
+	for round := 0; round < 40000; round++ {
+		f := randomFrame(d, c.Length)
+		goesTo(t, c, f, modelBucket(c, f))
 	}
 }
 

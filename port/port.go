@@ -4,6 +4,7 @@ package port
 import (
 	"fairlink/api"
 	"fairlink/queue"
+	"fairlink/turn"
 )
 
 // What Counts tells, by its place. The kinds of events stand between these two, each at its own number.
@@ -13,17 +14,15 @@ const (
 	counters = bytesOut + 1
 )
 
-// only is the number of the one bucket that all frames share.
-const only = 0
-
 // Port is a scheduler and its link.
 type Port struct {
-	config api.Config
-	now    int
-	busy   bool
-	until  int // when the frame on the link has gone out; has a meaning only while busy
-	bucket queue.Queue
-	counts [counters]int
+	config  api.Config
+	now     int
+	busy    bool
+	until   int // when the frame on the link has gone out; has a meaning only while busy
+	buckets []queue.Queue
+	turns   turn.Turns
+	counts  [counters]int
 }
 
 // New makes a port of a configuration (P3).
@@ -31,7 +30,7 @@ func New(c api.Config) (*Port, api.Errno) {
 	if !sound(c) {
 		return nil, api.ErrConfig
 	}
-	return &Port{config: c}, api.OK
+	return &Port{config: c, buckets: make([]queue.Queue, c.Buckets)}, api.OK
 }
 
 // Arrive takes a frame in: its number, and what happens at once (P4).
@@ -44,7 +43,9 @@ func (p *Port) Arrive(frame string) (int, []api.Event, api.Errno) {
 	}
 	id := p.counts[takenIn]
 	p.counts[takenIn]++
-	p.bucket.Join(queue.Frame{ID: id, Bytes: frame})
+	b := p.place(frame)
+	p.buckets[b].Join(queue.Frame{ID: id, Bytes: frame})
+	p.turns.Enter(b, p.config.Quantum)
 	events := p.shed(nil)
 	if !p.busy {
 		events = p.feed(events)
@@ -82,18 +83,23 @@ func (p *Port) Now() (int, bool) {
 
 // Held tells how many frames wait, and how much memory they take (P6).
 func (p *Port) Held() (int, int) {
-	frames := p.bucket.Frames()
-	bytes := p.bucket.Bytes()
-	return frames, bytes + frames*api.Over
+	frames := 0
+	memory := 0
+	for b := range p.buckets {
+		k, sum := p.Backlog(b)
+		frames += k
+		memory += sum + k*api.Over
+	}
+	return frames, memory
 }
 
 // Backlog tells how many frames of a bucket wait, and how many bytes they have (P6).
 func (p *Port) Backlog(b int) (int, int) {
-	if b != only {
+	if b < 0 || b >= len(p.buckets) {
 		return 0, 0
 	}
-	frames := p.bucket.Frames()
-	bytes := p.bucket.Bytes()
+	frames := p.buckets[b].Frames()
+	bytes := p.buckets[b].Bytes()
 	return frames, bytes
 }
 
