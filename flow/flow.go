@@ -1,4 +1,4 @@
-// Package flow: to which flow a frame belongs (P7).
+// Package flow: how a frame is read, and to which flow it belongs (P7).
 package flow
 
 const (
@@ -32,6 +32,15 @@ func Of(frame string) string {
 	return ofUnread(frame)
 }
 
+// Version tells as what a frame is read: 4 for IPv4, 6 for IPv6, 0 if it cannot be.
+func Version(frame string) int {
+	text := Of(frame)
+	if len(text) == 0 {
+		return 0
+	}
+	return int(text[0])
+}
+
 // ofIPv4 is the flow of a frame that is IPv4; false, if it is not.
 func ofIPv4(frame string) (string, bool) {
 	if len(frame) < leastIPv4 || frame[0]>>4 != 4 {
@@ -42,7 +51,7 @@ func ofIPv4(frame string) (string, bool) {
 	if header < leastIPv4 || end < header || end > len(frame) {
 		return "", false
 	}
-	if sum(frame[:header]) != 0xffff {
+	if Sum(frame[:header]) != 0xffff {
 		return "", false
 	}
 	text := "\x04" + frame[12:20] + frame[9:10]
@@ -130,8 +139,8 @@ func pair(text string, at int) int {
 	return int(text[at])<<8 | int(text[at+1])
 }
 
-// sum adds up a header's 16-bit words, with the carries added in again.
-func sum(header string) int {
+// Sum adds up a header's 16-bit words, with the carries added in again.
+func Sum(header string) int {
 	n := 0
 	for at := 0; at+1 < len(header); at += 2 {
 		n += pair(header, at)

@@ -86,6 +86,36 @@ func TestExample11(t *testing.T) {
 	advance(t, p, 1000, "[60S1.1/20 80S3.1/20 100S5.1/20 120S2.0/60 180S7.1/20 200S8.1/60 260S4.0/60 320S9.1/20 340S6.0/60]")
 }
 
+func TestExample6(t *testing.T) {
+	p := atOnce(t, hurried(), times(12, 60)...)
+	advance(t, p, 299, "[60S1.0/60 120S2.0/60 180S3.0/60 240S4.0/60]")
+	advance(t, p, 1, "[300D5.0/60 300S6.0/60]")
+	advance(t, p, 1000, "[360S7.0/60 420S8.0/60 480S9.0/60 540S10.0/60 600S11.0/60]")
+	counts(t, p, 12, 11, 0, 0, 1, 0, 660)
+}
+
+func TestExample7(t *testing.T) {
+	c := hurried()
+	c.ECN = true
+	p := open(t, c)
+	for i := 0; i < 12; i++ {
+		p.Arrive(ecn(1, 60))
+	}
+	advance(t, p, 299, "[60S1.0/60 120S2.0/60 180S3.0/60 240S4.0/60]")
+	advance(t, p, 60, "[300M5.0/60]")
+	l := advance(t, p, 1000, "[360S6.0/60 420S7.0/60 480S8.0/60 540M9.0/60 600S10.0/60 660S11.0/60]")
+	for _, e := range l {
+		want := ecn(1, 60)
+		if e.Kind == api.Marked {
+			want = ecn(3, 60)
+		}
+		if e.Frame != want {
+			t.Errorf("P9: %s", full([]api.Event{e}))
+		}
+	}
+	counts(t, p, 12, 10, 2, 0, 0, 0, 720)
+}
+
 // The example of README.md.
 func Example() {
 	p, e := port.New(api.Config{

@@ -18,10 +18,18 @@ var journey = []step{
 	{1, 0}, {1, 0}, {1, 0}, {200, 0}, {9, 0}, {200, 0}, {1, 0}, {1, 0}, {1, 0}, {200, 0}, {0, 400}, {5, 0}, {5, 0}, {5, 0}, {0, 20}, {0, 20},
 }
 
+// travels is the frame of the i-th call; some long ones can be marked.
+func travels(i, n int) string {
+	if n == 200 && i%2 == 1 {
+		return ecn(2, n)
+	}
+	return filled(byte(i), n)
+}
+
 // take makes the i-th call: its answer in words, and the list of it.
 func take(p *port.Port, i int, s step) (string, []api.Event) {
 	if s.bytes > 0 {
-		id, l, e := p.Arrive(filled(byte(i), s.bytes))
+		id, l, e := p.Arrive(travels(i, s.bytes))
 		return fmt.Sprintf("%d %s %v", id, full(l), e), l
 	}
 	l, e := p.Advance(s.units)
@@ -60,8 +68,32 @@ func spread() api.Config {
 	return c
 }
 
-func both() []api.Config {
-	return []api.Config{tight(), spread()}
+// late is a configuration in which frames of the journey are dropped and marked for their delay.
+func late() api.Config {
+	c := tight()
+	c.Packets, c.Memory, c.Target, c.Interval, c.ECN = 64, 16000, 1, 1, true
+	return c
+}
+
+func every() []api.Config {
+	return []api.Config{tight(), spread(), late()}
+}
+
+// The journeys meet each kind of event that there is as yet.
+func TestJourneys(t *testing.T) {
+	sum := make([]int, 7)
+	for _, c := range every() {
+		p := open(t, c)
+		for i, s := range journey {
+			take(p, i, s)
+		}
+		for k, n := range p.Counts() {
+			sum[k] += n
+		}
+	}
+	if sum[api.Sent] == 0 || sum[api.Marked] == 0 || sum[api.Overload] == 0 || sum[api.Delayed] == 0 {
+		t.Errorf("the journeys met %v", sum)
+	}
 }
 
 // wrong makes all the calls that are refused whatever has been before.
@@ -81,7 +113,7 @@ func wrong(t *testing.T, p *port.Port) {
 
 // A port to which wrong calls are made all the time does what its twin does, to which none are made.
 func TestWrongCallsChangeNothing(t *testing.T) {
-	for _, c := range both() {
+	for _, c := range every() {
 		p := open(t, c)
 		twin := open(t, c)
 		for i := range journey {
@@ -99,7 +131,8 @@ func TestEveryCallEnds(t *testing.T) {
 	for _, first := range numbers {
 		for _, packets := range []int{1, 64} {
 			c := easy()
-			c.Packets, c.Buckets = packets, 1+packets%17
+			c.Packets, c.Buckets, c.ECN = packets, 1+packets%17, true
+			c.Target, c.Interval = 1, packets
 			p := open(t, c)
 			for i := 0; i < 3; i++ {
 				for _, s := range texts {
@@ -137,7 +170,7 @@ func TestConfigureAndResetEnd(t *testing.T) {
 
 // Ports that are used in turn answer what each would alone.
 func TestPortsKnowNothingOfEachOther(t *testing.T) {
-	for _, c := range both() {
+	for _, c := range every() {
 		var alone []string
 		p := open(t, c)
 		for i, s := range journey {
@@ -180,7 +213,7 @@ func spoilCounts(l []int, i int) []int {
 
 // Whatever the caller does to its lists, and to the room behind them, the port goes on as its twin, and leaves the lists alone.
 func TestListsAreTheCallers(t *testing.T) {
-	for _, c := range both() {
+	for _, c := range every() {
 		p := open(t, c)
 		twin := open(t, c)
 		var lists [][]api.Event

@@ -2,6 +2,7 @@ package port
 
 import (
 	"fairlink/api"
+	"fairlink/bucket"
 	"fairlink/flow"
 	"fairlink/queue"
 	"fairlink/sip"
@@ -39,7 +40,7 @@ func (p *Port) fullest() int {
 func (p *Port) shed(events []api.Event) []api.Event {
 	for p.tooMuch() {
 		b := p.fullest()
-		f, found := p.buckets[b].Leave()
+		f, found := p.buckets[b].Drop()
 		if !found {
 			break
 		}
@@ -49,14 +50,18 @@ func (p *Port) shed(events []api.Event) []api.Event {
 	return events
 }
 
-// feed lets the idle link take a frame, if one waits (P8).
+// feed lets the idle link take a frame, if one waits (P8); frames that have waited too long may be dropped before it (P9).
 func (p *Port) feed(events []api.Event) []api.Event {
 	b, found := p.turns.Next(p.config.Quantum)
 	for found {
-		f, given := p.buckets[b].Leave()
-		if given {
-			p.turns.Pay(b, len(f.Bytes))
-			e := p.send(b, f)
+		given := p.buckets[b].GiveUp(p.config, p.now)
+		for _, f := range given.Dropped {
+			e := p.happen(api.Delayed, b, f)
+			events = append(events, e)
+		}
+		if given.Found {
+			p.turns.Pay(b, len(given.Frame.Bytes))
+			e := p.send(b, given)
 			return append(events, e)
 		}
 		p.turns.Leave()
@@ -65,13 +70,17 @@ func (p *Port) feed(events []api.Event) []api.Event {
 	return events
 }
 
-// send lays a frame on the link.
-func (p *Port) send(b int, f queue.Frame) api.Event {
+// send lays a frame that was given up on the link.
+func (p *Port) send(b int, g bucket.Given) api.Event {
 	p.busy = true
 	// This may lie beyond MaxTime, but not by so much that it goes round.
-	p.until = p.now + len(f.Bytes)*p.config.Tau
-	p.counts[bytesOut] += len(f.Bytes)
-	return p.happen(api.Sent, b, f)
+	p.until = p.now + len(g.Frame.Bytes)*p.config.Tau
+	p.counts[bytesOut] += len(g.Frame.Bytes)
+	kind := api.Sent
+	if g.Marked {
+		kind = api.Marked
+	}
+	return p.happen(kind, b, g.Frame)
 }
 
 // happen counts an event that befalls a frame of a bucket now, and makes it.

@@ -8,12 +8,14 @@ import (
 	"fairlink/port"
 )
 
-// model does what P4 to P8 say as simply as can be: time goes by one unit after the other, and all sums are made when they are asked for.
+// model does what P4 to P9 say as simply as can be: all sums are made when they are asked for. Of a frame that waits, At is the time at which it came.
 type model struct {
 	c        api.Config
 	now      int
 	left     int // units that the frame on the link still has
 	queues   [api.MaxBuckets][]api.Event
+	minds    [api.MaxBuckets]mind
+	edges    map[string]int // how often the edges of P9 were met, if somebody wants to know
 	deficits [api.MaxBuckets]int
 	fresh    []int
 	old      []int
@@ -53,15 +55,17 @@ func (m *model) fullest() int {
 	return best
 }
 
-func (m *model) out(kind, b int) {
-	e := m.queues[b][0]
+// first takes the first frame out of a queue.
+func (m *model) first(b int) api.Event {
+	f := m.queues[b][0]
 	m.queues[b] = m.queues[b][1:]
-	e.At, e.Kind = m.now, kind
-	m.events = append(m.events, e)
-	if kind == api.Sent {
-		m.left = len(e.Frame) * m.c.Tau
-		m.deficits[b] -= len(e.Frame)
-	}
+	return f
+}
+
+// happens notes what becomes of a frame now.
+func (m *model) happens(kind int, f api.Event) {
+	f.At, f.Kind = m.now, kind
+	m.events = append(m.events, f)
 }
 
 func (m *model) listed(b int) bool {
@@ -75,7 +79,7 @@ func (m *model) listed(b int) bool {
 
 func (m *model) arrive(frame string) {
 	b := modelBucket(m.c, frame)
-	m.queues[b] = append(m.queues[b], api.Event{ID: m.taken, Bucket: b, Frame: frame})
+	m.queues[b] = append(m.queues[b], api.Event{At: m.now, ID: m.taken, Bucket: b, Frame: frame})
 	m.taken++
 	if !m.listed(b) {
 		m.fresh = append(m.fresh, b)
@@ -86,7 +90,7 @@ func (m *model) arrive(frame string) {
 		if n <= m.c.Packets && memory <= m.c.Memory {
 			break
 		}
-		m.out(api.Overload, m.fullest())
+		m.happens(api.Overload, m.first(m.fullest()))
 	}
 	m.feed()
 }
@@ -99,28 +103,35 @@ func (m *model) feed() {
 			list = &m.old
 		}
 		b := (*list)[0]
-		switch {
-		case m.deficits[b] <= 0:
+		if m.deficits[b] <= 0 {
 			m.deficits[b] += m.c.Quantum
 			*list = (*list)[1:]
 			m.old = append(m.old, b)
-		case len(m.queues[b]) > 0:
-			m.out(api.Sent, b)
-		case list == &m.fresh && len(m.old) > 0:
-			m.fresh = m.fresh[1:]
+			continue
+		}
+		if f := m.giveUp(b); f != nil {
+			m.deficits[b] -= len(f.Frame)
+			m.left = len(f.Frame) * m.c.Tau
+			m.happens(f.Kind, *f)
+			continue
+		}
+		wasFresh := list == &m.fresh
+		*list = (*list)[1:]
+		if wasFresh && len(m.old) > 0 {
 			m.old = append(m.old, b)
-		default:
-			*list = (*list)[1:]
 		}
 	}
 }
 
 func (m *model) advance(n int) {
-	for ; n > 0; n-- {
-		m.now++
+	for n > 0 {
+		units := n
 		if m.left > 0 {
-			m.left--
+			units = min(n, m.left)
+			m.left -= units
 		}
+		m.now += units
+		n -= units
 		m.feed()
 	}
 }
@@ -131,7 +142,7 @@ func (m *model) see() string {
 	counts[0] = m.taken
 	for _, e := range m.events {
 		counts[e.Kind]++
-		if e.Kind == api.Sent {
+		if e.Kind == api.Sent || e.Kind == api.Marked {
 			counts[6] += len(e.Frame)
 		}
 	}
@@ -165,6 +176,11 @@ func randomConfig(d *dice) api.Config {
 	c.Buckets = 1 + d.roll(api.MaxBuckets)
 	b := randomBytes(d, api.KeyLen)
 	c.Key = string(b)
+	if d.roll(4) > 0 {
+		frame := c.Length * c.Tau
+		c.Interval = 1 + d.roll([]int{3, 20, frame, 8 * frame}[d.roll(4)])
+		c.Target = 1 + d.roll(min(c.Interval, 3*frame))
+	}
 	return c
 }
 
@@ -245,40 +261,78 @@ func randomIPv6(d *dice, b []byte) []byte {
 	return b
 }
 
-func playRandom(t *testing.T, d *dice, p *port.Port, m *model) {
-	for i := 0; i < 200; i++ {
-		before := len(m.events)
-		var got []api.Event
-		var e api.Errno
-		if d.roll(2) == 0 {
-			f := randomFrame(d, m.c.Length)
-			m.arrive(f)
-			var id int
-			id, got, e = p.Arrive(f)
-			if id != m.taken-1 {
-				t.Fatalf("P4: step %d: number %d; want %d", i, id, m.taken-1)
-			}
+// twins is a port and its model, to which the same calls are made.
+type twins struct {
+	t *testing.T
+	p *port.Port
+	m *model
+}
+
+func pair(t *testing.T, c api.Config, edges map[string]int) twins {
+	t.Helper()
+	return twins{t, open(t, c), &model{c: c, edges: edges}}
+}
+
+func (w twins) arrive(f string) {
+	w.t.Helper()
+	before := len(w.m.events)
+	w.m.arrive(f)
+	id, got, e := w.p.Arrive(f)
+	if id != w.m.taken-1 {
+		w.t.Fatalf("P4: %#v: number %d; want %d", w.m.c, id, w.m.taken-1)
+	}
+	w.compare(before, got, e)
+}
+
+func (w twins) advance(n int) {
+	w.t.Helper()
+	before := len(w.m.events)
+	w.m.advance(n)
+	got, e := w.p.Advance(n)
+	w.compare(before, got, e)
+}
+
+func (w twins) compare(before int, got []api.Event, e api.Errno) {
+	w.t.Helper()
+	var want []api.Event
+	want = append(want, w.m.events[before:]...)
+	if e != api.OK || full(got) != full(want) {
+		w.t.Fatalf("P4, P5, P7, P8, P9: %#v, at %d: %s, %v; want %s", w.m.c, w.m.now, show(got), e, show(want))
+	}
+}
+
+func (w twins) look() {
+	w.t.Helper()
+	if got, want := see(w.p), w.m.see(); got != want {
+		w.t.Fatalf("P6: %#v: %s; want %s", w.m.c, got, want)
+	}
+}
+
+// playRandom makes calls with at times more frames than the link can carry, at times less.
+func playRandom(d *dice, w twins, calls int) {
+	w.t.Helper()
+	c := w.m.c
+	rush := 2
+	for i := 0; i < calls; i++ {
+		if d.roll(20) == 0 {
+			rush = 1 + d.roll(4)
+		}
+		if d.roll(5) < rush {
+			w.arrive(randomFrame(d, c.Length))
 		} else {
-			n := d.roll(m.c.Length * m.c.Tau * 2 / (1 + d.roll(4)))
-			m.advance(n)
-			got, e = p.Advance(n)
+			w.advance(d.roll(c.Length * c.Tau * 2 / (1 + d.roll(4))))
 		}
-		var want []api.Event
-		want = append(want, m.events[before:]...)
-		if e != api.OK || full(got) != full(want) {
-			t.Fatalf("P4, P5, P7, P8: %#v, step %d: %s, %v; want %s", m.c, i, show(got), e, show(want))
-		}
-		if see(p) != m.see() {
-			t.Fatalf("P6: %#v, step %d: %s; want %s", m.c, i, see(p), m.see())
+		if i%8 == 0 {
+			w.look()
 		}
 	}
+	w.look()
 }
 
 func TestAgainstModel(t *testing.T) {
 	d := &dice{1}
-	for round := 0; round < 300; round++ {
-		c := randomConfig(d)
-		playRandom(t, d, open(t, c), &model{c: c})
+	for round := 0; round < 400; round++ {
+		playRandom(d, pair(t, randomConfig(d), nil), 200)
 	}
 }
 

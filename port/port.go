@@ -3,6 +3,7 @@ package port
 
 import (
 	"fairlink/api"
+	"fairlink/bucket"
 	"fairlink/queue"
 	"fairlink/turn"
 )
@@ -20,7 +21,7 @@ type Port struct {
 	now     int
 	busy    bool
 	until   int // when the frame on the link has gone out; has a meaning only while busy
-	buckets []queue.Queue
+	buckets []bucket.Bucket
 	turns   turn.Turns
 	counts  [counters]int
 }
@@ -30,7 +31,7 @@ func New(c api.Config) (*Port, api.Errno) {
 	if !sound(c) {
 		return nil, api.ErrConfig
 	}
-	return &Port{config: c, buckets: make([]queue.Queue, c.Buckets)}, api.OK
+	return &Port{config: c, buckets: make([]bucket.Bucket, c.Buckets)}, api.OK
 }
 
 // Arrive takes a frame in: its number, and what happens at once (P4).
@@ -44,7 +45,7 @@ func (p *Port) Arrive(frame string) (int, []api.Event, api.Errno) {
 	id := p.counts[takenIn]
 	p.counts[takenIn]++
 	b := p.place(frame)
-	p.buckets[b].Join(queue.Frame{ID: id, Bytes: frame})
+	p.buckets[b].Join(queue.Frame{ID: id, Bytes: frame, Since: p.now})
 	p.turns.Enter(b, p.config.Quantum)
 	events := p.shed(nil)
 	if !p.busy {

@@ -1,10 +1,11 @@
 // Package queue: the frames that wait in one bucket, in the order in which they came.
 package queue
 
-// Frame is a frame that waits: its number and its bytes.
+// Frame is a frame that waits: its number, its bytes, and the time at which it came.
 type Frame struct {
 	ID    int
 	Bytes string
+	Since int
 }
 
 // Queue is a bucket's frames; the first is the next to leave. Its zero value holds none.

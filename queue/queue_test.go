@@ -38,6 +38,18 @@ func TestFirstInFirstOut(t *testing.T) {
 	expect(t, &q, 0, 0)
 }
 
+func TestTimesAreKept(t *testing.T) {
+	q := queue.Queue{}
+	for id := 0; id < 5; id++ {
+		q.Join(queue.Frame{ID: id, Bytes: "frame", Since: 1<<62 - id})
+	}
+	for id := 0; id < 5; id++ {
+		if f, found := q.Leave(); !found || f.Since != 1<<62-id {
+			t.Errorf("%v, %v; want one that came at %d", f, found, 1<<62-id)
+		}
+	}
+}
+
 func TestNoneLeavesAnEmptyQueue(t *testing.T) {
 	q := queue.Queue{}
 	for i := 0; i < 3; i++ {
