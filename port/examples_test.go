@@ -116,6 +116,32 @@ func TestExample7(t *testing.T) {
 	counts(t, p, 12, 10, 2, 0, 0, 0, 720)
 }
 
+func TestExample9(t *testing.T) {
+	c := easy()
+	c.Buckets = 4
+	p := open(t, c)
+	arrive(t, p, in(t, c, 1, 60), 0, "[0S0.1/60]")
+	arrive(t, p, in(t, c, 1, 60), 1, "[]")
+	arrive(t, p, in(t, c, 1, 60), 2, "[]")
+	arrive(t, p, in(t, c, 2, 60), 3, "[]")
+	c.Buckets = 2
+	configure(t, p, c, "[0F1.1/60 0F2.1/60 0F3.2/60]")
+	advance(t, p, 59, "[]")
+	now(t, p, 59, true)
+	advance(t, p, 1, "[]")
+	now(t, p, 60, false)
+}
+
+func TestExample10(t *testing.T) {
+	p := open(t, easy())
+	arrive(t, p, ip(60), 0, "[0S0.0/60]")
+	arrive(t, p, ip(60), 1, "[]")
+	arrive(t, p, ip(60), 2, "[]")
+	reset(t, p, otherKey, "[0F1.0/60 0F2.0/60]")
+	counts(t, p, 3, 0, 0, 0, 0, 0, 0)
+	arrive(t, p, ip(60), 3, "[]")
+}
+
 // The example of README.md.
 func Example() {
 	p, e := port.New(api.Config{

@@ -9,13 +9,49 @@ import (
 	"fairlink/port"
 )
 
-// step is one call: Arrive of so many bytes, or, where bytes is 0, Advance.
+// step is one call: Arrive of so many bytes; where bytes is 0, Advance; where it is below 0, Configure or Reset.
 type step struct{ bytes, units int }
 
-// journey meets an idle and a busy link, and drops of none, one and several frames, one such call after the other.
-var journey = []step{
+// plain meets an idle and a busy link, and drops of none, one and several frames, one such call after the other.
+var plain = []step{
 	{60, 0}, {30, 0}, {0, 10}, {1, 0}, {20, 0}, {40, 0}, {0, 50}, {0, 0}, {7, 0}, {0, 29}, {0, 1}, {0, 5}, {60, 0}, {0, 300}, {9, 0}, {0, 8}, {3, 0}, {0, 1},
 	{1, 0}, {1, 0}, {1, 0}, {200, 0}, {9, 0}, {200, 0}, {1, 0}, {1, 0}, {1, 0}, {200, 0}, {0, 400}, {5, 0}, {5, 0}, {5, 0}, {0, 20}, {0, 20},
+}
+
+// journey is plain, then plain again with changes in between: each change comes at several places, and most of them twice running.
+var journey = winding()
+
+func winding() []step {
+	list := append([]step{}, plain...)
+	for round := 0; round < 3; round++ {
+		for i, s := range plain {
+			list = append(list, s)
+			if i%2 == 1 {
+				n := -1 - (i/2+3*round)%8
+				list = append(list, step{n, 0}, step{n, 0})
+			}
+		}
+	}
+	return list
+}
+
+// alters makes a change to a port that was made of a configuration.
+func alters(p *port.Port, c api.Config, n int) ([]api.Event, api.Errno) {
+	switch n {
+	case 1:
+		return p.Configure(changed(c, []change{{"Packets", 1}, {"Quantum", 3}, {"Tau", 2}}))
+	case 2:
+		return p.Configure(changed(c, []change{{"Memory", 264}, {"Quantum", 90}}))
+	case 3:
+		return p.Configure(changed(c, []change{{"Target", 1}, {"Interval", 2}, {"Packets", 64}, {"Memory", 20000}}))
+	case 4:
+		return p.Configure(changed(c, []change{{"Buckets", 3}}))
+	case 5:
+		return p.Reset(key)
+	case 6:
+		return p.Reset(otherKey)
+	}
+	return p.Configure(c)
 }
 
 // travels is the frame of the i-th call; some long ones can be marked.
@@ -26,8 +62,12 @@ func travels(i, n int) string {
 	return filled(byte(i), n)
 }
 
-// take makes the i-th call: its answer in words, and the list of it.
-func take(p *port.Port, i int, s step) (string, []api.Event) {
+// take makes the i-th call to a port that was made of a configuration: its answer in words, and the list of it.
+func take(p *port.Port, c api.Config, i int, s step) (string, []api.Event) {
+	if s.bytes < 0 {
+		l, e := alters(p, c, -s.bytes)
+		return fmt.Sprintf("%s %v", full(l), e), l
+	}
 	if s.bytes > 0 {
 		id, l, e := p.Arrive(travels(i, s.bytes))
 		return fmt.Sprintf("%d %s %v", id, full(l), e), l
@@ -37,10 +77,10 @@ func take(p *port.Port, i int, s step) (string, []api.Event) {
 }
 
 // same makes the i-th call to a port and to its twin.
-func same(t *testing.T, p, twin *port.Port, i int) []api.Event {
+func same(t *testing.T, p, twin *port.Port, c api.Config, i int) []api.Event {
 	t.Helper()
-	got, l := take(p, i, journey[i])
-	want, _ := take(twin, i, journey[i])
+	got, l := take(p, c, i, journey[i])
+	want, _ := take(twin, c, i, journey[i])
 	if got != want {
 		t.Errorf("P1, P2: step %d: %s; the twin: %s", i, got, want)
 	}
@@ -79,20 +119,27 @@ func every() []api.Config {
 	return []api.Config{tight(), spread(), late()}
 }
 
-// The journeys meet each kind of event that there is as yet.
+// The journeys meet each kind of event, several at once, and no error.
 func TestJourneys(t *testing.T) {
-	sum := make([]int, 7)
+	most := make([]int, 6)
 	for _, c := range every() {
 		p := open(t, c)
 		for i, s := range journey {
-			take(p, i, s)
-		}
-		for k, n := range p.Counts() {
-			sum[k] += n
+			answer, l := take(p, c, i, s)
+			if !strings.HasSuffix(answer, " OK") {
+				t.Errorf("step %d: %s", i, answer)
+			}
+			var kinds [6]int
+			for _, e := range l {
+				kinds[e.Kind]++
+			}
+			for k, n := range kinds {
+				most[k] = max(most[k], n)
+			}
 		}
 	}
-	if sum[api.Sent] == 0 || sum[api.Marked] == 0 || sum[api.Overload] == 0 || sum[api.Delayed] == 0 {
-		t.Errorf("the journeys met %v", sum)
+	if most[api.Sent] < 2 || most[api.Marked] == 0 || most[api.Overload] < 2 || most[api.Delayed] == 0 || most[api.Flushed] < 2 {
+		t.Errorf("the journeys met %v of the kinds at once", most)
 	}
 }
 
@@ -109,6 +156,16 @@ func wrong(t *testing.T, p *port.Port) {
 			t.Errorf("P5: Advance(%d): %s, %v", n, full(l), e)
 		}
 	}
+	for _, c := range unsound() {
+		if l, e := p.Configure(c); l != nil || e != api.ErrConfig {
+			t.Errorf("P10: Configure(%+v): %s, %v", c, full(l), e)
+		}
+	}
+	for _, k := range wrongKeys() {
+		if l, e := p.Reset(k); l != nil || e != api.ErrConfig {
+			t.Errorf("P11: Reset of %d bytes: %s, %v", len(k), full(l), e)
+		}
+	}
 }
 
 // A port to which wrong calls are made all the time does what its twin does, to which none are made.
@@ -119,7 +176,7 @@ func TestWrongCallsChangeNothing(t *testing.T) {
 		for i := range journey {
 			wrong(t, p)
 			looks(t, p, twin, i)
-			same(t, p, twin, i)
+			same(t, p, twin, c, i)
 		}
 	}
 }
@@ -153,18 +210,28 @@ func TestEveryCallEnds(t *testing.T) {
 	}
 }
 
+// Configure and Reset, too.
 func TestConfigureAndResetEnd(t *testing.T) {
-	for _, n := range []int{leastInt, -1, 0, 1, greatestInt} {
-		p := open(t, easy())
-		p.Arrive("on the link")
-		p.Arrive("waits")
-		p.Configure(api.Config{Buckets: n, Quantum: n, Packets: n, Memory: n, Length: n, Target: n, Interval: n, Tau: n})
-		p.Configure(easy())
-		for _, k := range []string{"", key, key + "x", strings.Repeat("k", 1<<20)} {
+	numbers := []int{leastInt, -1, 0, 1, 16, 20, 64, 200, 264, 1000, api.MaxSpan, api.MaxTime, greatestInt}
+	for _, n := range numbers {
+		for _, k := range append(rightKeys(), wrongKeys()...) {
+			p := open(t, easy())
+			p.Arrive("on the link")
+			p.Arrive("waits")
+			p.Configure(api.Config{Buckets: n, Quantum: n, Packets: n, Memory: n, Length: n, Target: n, Interval: n, Tau: n, Key: k})
+			for _, field := range []string{"Buckets", "Quantum", "Packets", "Memory", "Length", "Target", "Interval", "Tau"} {
+				p.Arrive("waits")
+				c := changed(easy(), []change{{field, n}})
+				p.Configure(c)
+				c.Key = k
+				p.Arrive("waits")
+				p.Configure(c)
+			}
+			p.Reset(k)
+			p.Arrive("later")
+			p.Advance(1000)
 			p.Reset(k)
 		}
-		p.Arrive("later")
-		p.Advance(1000)
 	}
 }
 
@@ -174,15 +241,16 @@ func TestPortsKnowNothingOfEachOther(t *testing.T) {
 		var alone []string
 		p := open(t, c)
 		for i, s := range journey {
-			answer, _ := take(p, i, s)
+			answer, _ := take(p, c, i, s)
 			alone = append(alone, answer+see(p))
 		}
 		p = open(t, c)
 		other := open(t, spread())
 		for i, s := range journey {
-			take(other, i+100, step{13, 0})
-			take(other, i+100, step{0, 5})
-			answer, _ := take(p, i, s)
+			take(other, spread(), i+100, step{13, 0})
+			take(other, spread(), i+100, step{0, 5})
+			take(other, spread(), i+100, step{-1 - i*7/3%8, 0})
+			answer, _ := take(p, c, i, s)
 			if got := answer + see(p); got != alone[i] {
 				t.Errorf("P2: step %d: %s; alone: %s", i, got, alone[i])
 			}
@@ -219,7 +287,7 @@ func TestListsAreTheCallers(t *testing.T) {
 		var lists [][]api.Event
 		var sums [][]int
 		for i := range journey {
-			l := same(t, p, twin, i)
+			l := same(t, p, twin, c, i)
 			lists = append(lists, spoilEvents(l, i+1))
 			sums = append(sums, spoilCounts(p.Counts(), i+1))
 			looks(t, p, twin, i)

@@ -109,6 +109,7 @@ func (m *model) begin(b int, f *api.Event) *api.Event {
 	m.met("COUNT less LAST", d)
 	if d > 1 {
 		m.met("now less NEXT less 16 Interval", m.now-r.next-16*m.c.Interval)
+		m.met("now less NEXT", m.now-r.next)
 	}
 	if d > 1 && m.now-r.next < 16*m.c.Interval {
 		r.count = d

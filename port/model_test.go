@@ -8,7 +8,7 @@ import (
 	"fairlink/port"
 )
 
-// model does what P4 to P9 say as simply as can be: all sums are made when they are asked for. Of a frame that waits, At is the time at which it came.
+// model does what P4 to P11 say as simply as can be: all sums are made when they are asked for. Of a frame that waits, At is the time at which it came.
 type model struct {
 	c        api.Config
 	now      int
@@ -21,6 +21,7 @@ type model struct {
 	old      []int
 	taken    int
 	events   []api.Event // all that have ever happened
+	before   int         // how many of them no longer count
 }
 
 func (m *model) backlog(b int) (int, int) {
@@ -85,14 +86,18 @@ func (m *model) arrive(frame string) {
 		m.fresh = append(m.fresh, b)
 		m.deficits[b] = m.c.Quantum
 	}
+	m.shed()
+	m.feed()
+}
+
+func (m *model) shed() {
 	for {
 		n, memory := m.held()
 		if n <= m.c.Packets && memory <= m.c.Memory {
-			break
+			return
 		}
 		m.happens(api.Overload, m.first(m.fullest()))
 	}
-	m.feed()
 }
 
 // feed lets the link, if it is idle, take a frame.
@@ -140,7 +145,7 @@ func (m *model) see() string {
 	n, memory := m.held()
 	counts := make([]int, 7)
 	counts[0] = m.taken
-	for _, e := range m.events {
+	for _, e := range m.events[m.before:] {
 		counts[e.Kind]++
 		if e.Kind == api.Sent || e.Kind == api.Marked {
 			counts[6] += len(e.Frame)
@@ -297,7 +302,7 @@ func (w twins) compare(before int, got []api.Event, e api.Errno) {
 	var want []api.Event
 	want = append(want, w.m.events[before:]...)
 	if e != api.OK || full(got) != full(want) {
-		w.t.Fatalf("P4, P5, P7, P8, P9: %#v, at %d: %s, %v; want %s", w.m.c, w.m.now, show(got), e, show(want))
+		w.t.Fatalf("P4, P5, P7 to P11: %#v, at %d: %s, %v; want %s", w.m.c, w.m.now, show(got), e, show(want))
 	}
 }
 
@@ -311,9 +316,9 @@ func (w twins) look() {
 // playRandom makes calls with at times more frames than the link can carry, at times less.
 func playRandom(d *dice, w twins, calls int) {
 	w.t.Helper()
-	c := w.m.c
 	rush := 2
 	for i := 0; i < calls; i++ {
+		c := w.m.c
 		if d.roll(20) == 0 {
 			rush = 1 + d.roll(4)
 		}

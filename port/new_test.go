@@ -45,8 +45,9 @@ func refuses(t *testing.T, c api.Config) {
 	}
 }
 
-func TestNewTakesEachLimitJustKept(t *testing.T) {
-	for _, l := range [][]change{
+// justKept is changes of easy with which each limit is just kept.
+func justKept() [][]change {
+	return [][]change{
 		{{"Buckets", 1}}, {{"Buckets", 16}},
 		{{"Quantum", 1}}, {{"Quantum", 1000}},
 		{{"Packets", 1}}, {{"Packets", 64}},
@@ -56,13 +57,12 @@ func TestNewTakesEachLimitJustKept(t *testing.T) {
 		{{"Target", 1}}, {{"Target", 1}, {"Interval", 1}}, {{"Target", 500}, {"Interval", 500}},
 		{{"Target", 1 << 40}, {"Interval", 1 << 40}}, {{"Target", 1}, {"Interval", 1 << 40}},
 		{{"Tau", 1}}, {{"Tau", 1 << 20}},
-	} {
-		open(t, changed(easy(), l))
 	}
 }
 
-func TestNewRefusesEachLimitJustBroken(t *testing.T) {
-	for _, l := range [][]change{
+// justBroken is changes with which each is just broken.
+func justBroken() [][]change {
+	return [][]change{
 		{{"Buckets", 0}}, {{"Buckets", 17}},
 		{{"Quantum", 0}}, {{"Quantum", 1001}},
 		{{"Packets", 0}}, {{"Packets", 65}},
@@ -73,33 +73,62 @@ func TestNewRefusesEachLimitJustBroken(t *testing.T) {
 		{{"Target", 0}, {"Interval", 0}}, {{"Target", 1}, {"Interval", 0}},
 		{{"Target", 1}, {"Interval", 1<<40 + 1}}, {{"Target", 1<<40 + 1}, {"Interval", 1<<40 + 1}},
 		{{"Tau", 0}}, {{"Tau", 1<<20 + 1}},
-	} {
-		refuses(t, changed(easy(), l))
 	}
 }
 
-func TestNewRefusesFarNumbers(t *testing.T) {
+// farOff is changes to numbers that lie far beyond the limits.
+func farOff() [][]change {
+	list := [][]change{
+		{{"Length", greatestInt}, {"Memory", leastInt}}, {{"Length", greatestInt}, {"Memory", 65536}},
+		{{"Target", greatestInt}, {"Interval", greatestInt}}, {{"Buckets", 0}, {"Tau", 0}},
+	}
 	for _, field := range []string{"Buckets", "Quantum", "Packets", "Memory", "Length", "Target", "Interval", "Tau"} {
 		for _, n := range []int{-1, leastInt, leastInt + 1, greatestInt, greatestInt - 1, 1 << 32, 1<<32 + 60} {
 			if n >= 1<<32 && n <= api.MaxSpan && (field == "Target" || field == "Interval") {
 				continue
 			}
-			refuses(t, changed(easy(), []change{{field, n}}))
+			list = append(list, []change{{field, n}})
 		}
 	}
-	refuses(t, changed(easy(), []change{{"Length", greatestInt}, {"Memory", leastInt}}))
-	refuses(t, changed(easy(), []change{{"Length", greatestInt}, {"Memory", 65536}}))
-	refuses(t, changed(easy(), []change{{"Target", greatestInt}, {"Interval", greatestInt}}))
-	refuses(t, changed(easy(), []change{{"Buckets", 0}, {"Tau", 0}}))
-	refuses(t, api.Config{})
+	return list
 }
 
-func TestNewKey(t *testing.T) {
-	c := easy()
-	for _, c.Key = range []string{strings.Repeat("\x00", 16), strings.Repeat("\xff", 16), strings.Repeat("ä", 8)} {
+// rightKeys and wrongKeys have KeyLen bytes and have not.
+func rightKeys() []string {
+	return []string{strings.Repeat("\x00", 16), strings.Repeat("\xff", 16), strings.Repeat("ä", 8)}
+}
+
+func wrongKeys() []string {
+	return []string{"", "x", key[:15], key + "x", strings.Repeat("ä", 16), strings.Repeat("k", 1<<20)}
+}
+
+// unsound is configurations of all the ways in which a limit is broken.
+func unsound() []api.Config {
+	list := []api.Config{{}}
+	for _, l := range append(justBroken(), farOff()...) {
+		list = append(list, changed(easy(), l))
+	}
+	for _, k := range wrongKeys() {
+		c := easy()
+		c.Key = k
+		list = append(list, c)
+	}
+	return list
+}
+
+func TestNewTakesEachLimitJustKept(t *testing.T) {
+	for _, l := range justKept() {
+		open(t, changed(easy(), l))
+	}
+	for _, k := range rightKeys() {
+		c := easy()
+		c.Key = k
 		open(t, c)
 	}
-	for _, c.Key = range []string{"", "x", key[:15], key + "x", strings.Repeat("ä", 16), strings.Repeat("k", 1<<20)} {
+}
+
+func TestNewRefusesEachLimitBroken(t *testing.T) {
+	for _, c := range unsound() {
 		refuses(t, c)
 	}
 }

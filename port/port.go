@@ -72,10 +72,31 @@ func (p *Port) Advance(n int) ([]api.Event, api.Errno) {
 }
 
 // Configure gives the port another configuration (P10).
-func (p *Port) Configure(c api.Config) ([]api.Event, api.Errno) { return nil, api.OK }
+func (p *Port) Configure(c api.Config) ([]api.Event, api.Errno) {
+	if !sound(c) {
+		return nil, api.ErrConfig
+	}
+	if keepsBuckets(p.config, c) {
+		p.adopt(c)
+		return p.shed(nil), api.OK
+	}
+	events := p.flush()
+	p.renew(c)
+	return events, api.OK
+}
 
 // Reset gives it another key, and counts anew (P11).
-func (p *Port) Reset(key string) ([]api.Event, api.Errno) { return nil, api.OK }
+func (p *Port) Reset(key string) ([]api.Event, api.Errno) {
+	if len(key) != api.KeyLen {
+		return nil, api.ErrConfig
+	}
+	c := p.config
+	c.Key = key
+	events := p.flush()
+	p.renew(c)
+	p.countAnew()
+	return events, api.OK
+}
 
 // Now tells the time, and whether the link is busy (P6).
 func (p *Port) Now() (int, bool) {

@@ -45,6 +45,15 @@ func (t *Turns) Pay(b, bytes int) {
 	t.deficits[b] -= bytes
 }
 
+// Limit lets no deficit be above a quantum: one that is becomes just that.
+func (t *Turns) Limit(quantum int) {
+	for b := range t.deficits {
+		if t.deficits[b] > quantum {
+			t.deficits[b] = quantum
+		}
+	}
+}
+
 // Leave lets the first bucket leave its list, as it has no frame to give up. One that was new goes to the end of the old list, if others stand there.
 func (t *Turns) Leave() {
 	b, found := t.first()

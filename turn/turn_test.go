@@ -177,6 +177,63 @@ func TestNoSuchBucketAndNoQuantum(t *testing.T) {
 	next(t, &l, 10, 3)
 }
 
+// turns tells how many bytes, one by one, a bucket gives up in its turn.
+func turns(l *turn.Turns, quantum, b int) int {
+	n := 0
+	for {
+		first, found := l.Next(quantum)
+		if !found || first != b {
+			return n
+		}
+		l.Pay(b, 1)
+		n++
+	}
+}
+
+func TestLimit(t *testing.T) {
+	for _, x := range []struct{ was, limit, want int }{
+		{10, 11, 10}, {10, 10, 10}, {10, 9, 9}, {10, 1, 1}, {1000, 1, 1}, {10, 1000, 10}, {1, 1, 1},
+	} {
+		l := turn.Turns{}
+		l.Enter(1, x.was)
+		l.Enter(15, x.was)
+		l.Enter(0, x.was)
+		l.Limit(x.limit)
+		for _, b := range []int{1, 15, 0} {
+			if got := turns(&l, x.limit, b); got != x.want {
+				t.Errorf("P10: a deficit of %d, then Limit(%d): bucket %d has %d; want %d", x.was, x.limit, b, got, x.want)
+			}
+		}
+	}
+}
+
+// A deficit of 0 or below stays what it is, and one of a bucket that stands in no list does not matter.
+func TestLimitBelowNothing(t *testing.T) {
+	for _, paid := range []int{10, 11, 15, 29} {
+		l := turn.Turns{}
+		l.Enter(1, 10)
+		l.Enter(2, 10)
+		l.Pay(1, paid)
+		l.Limit(4)
+		if got := turns(&l, 20, 2); got != 4 {
+			t.Errorf("P10: bucket 2 has %d; want 4", got)
+		}
+		if got, want := turns(&l, 20, 1), 30-paid; got != want {
+			t.Errorf("P10: bucket 1 has %d; want %d", got, want)
+		}
+	}
+	l := turn.Turns{}
+	l.Enter(1, 10)
+	l.Leave()
+	l.Limit(4)
+	none(t, &l, 4)
+	l.Enter(1, 6)
+	l.Enter(2, 6)
+	if got := turns(&l, 6, 1); got != 6 {
+		t.Errorf("P8: bucket 1 has %d; want 6", got)
+	}
+}
+
 func TestManyRounds(t *testing.T) {
 	l := turn.Turns{}
 	for b := 0; b < 16; b++ {
